@@ -1,0 +1,46 @@
+"""The calls of pointdigits. Each answers a list of whole numbers; a refusal is -2 alone."""
+
+REFUSAL = -2
+LEAST_BASE = 2
+GREATEST_BASE = 36
+GREATEST_PART = 1000000000
+MOST_DIGITS = 4096
+
+
+def is_base(q):
+    return LEAST_BASE <= q <= GREATEST_BASE
+
+
+def is_fraction(a, b):
+    return 0 <= a <= GREATEST_PART and 1 <= b <= GREATEST_PART
+
+
+def is_stretch(i, n):
+    return i >= 1 and 0 <= n <= MOST_DIGITS
+
+
+def power_left(q, exponent, b):
+    """What q to the power exponent leaves by b."""
+    # Halving the exponent keeps this at one round a bit: the exponent may be near 2 to the power 64.
+    left = 1 % b
+    square = q % b
+    rest = exponent
+    while rest > 0:
+        if rest % 2 == 1:
+            left = left * square % b
+        square = square * square % b
+        rest = rest // 2
+    return left
+
+
+def digits(q, a, b, i, n):
+    """n, then the digits i, i + 1 and so on of a by b in base q, n of them; or -2."""
+    if not (is_base(q) and is_fraction(a, b) and is_stretch(i, n)):
+        return [REFUSAL]
+    answer = [n]
+    # The whole multiples of b that are dropped here add whole multiples of q to the digits to come: they change none.
+    left = a * power_left(q, i - 1, b) % b
+    for step in range(n):
+        answer.append(left * q // b)
+        left = left * q % b
+    return answer
