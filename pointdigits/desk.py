@@ -5,6 +5,8 @@ LEAST_BASE = 2
 GREATEST_BASE = 36
 GREATEST_PART = 1000000000
 MOST_DIGITS = 4096
+MOST_AHEAD = 5
+MOST_ROUND = 5
 
 
 def is_base(q):
@@ -44,3 +46,49 @@ def digits(q, a, b, i, n):
         answer.append(left * q // b)
         left = left * q % b
     return answer
+
+
+def are_lengths(m, n):
+    return 0 <= m <= MOST_AHEAD and 1 <= n <= MOST_ROUND
+
+
+def are_digits(q, row):
+    return all([number < q for number in row])
+
+
+def whole_power(q, exponent):
+    """q to the power exponent; only a few are asked for, so step by step will do."""
+    power = 1
+    for step in range(exponent):
+        power = power * q
+    return power
+
+
+def whole_number(q, row):
+    """The whole number whose digits in base q are those of row."""
+    number = 0
+    for digit in row:
+        number = number * q + digit
+    return number
+
+
+def greatest_divisor(above, below):
+    """The greatest whole number that divides both; below isn't 0."""
+    divisor = below
+    rest = above % below
+    while rest > 0:
+        left = divisor % rest
+        divisor = rest
+        rest = left
+    return divisor
+
+
+def back(q, m, n, l, r):
+    """0, then what's above and what's below of the fraction with the digits l and then r, again and again; or -2."""
+    if not (is_base(q) and are_lengths(m, n) and are_digits(q, l) and are_digits(q, r)):
+        return [REFUSAL]
+    # Moved by m + n places and by m places, the number has the same digits behind the point: they cancel out.
+    above = whole_number(q, l + r) - whole_number(q, l)
+    below = whole_power(q, m + n) - whole_power(q, m)
+    divisor = greatest_divisor(above, below)
+    return [0, above // divisor, below // divisor]
